@@ -88,3 +88,5 @@ func SplitWords(s string) []string { return strings.FieldsFunc(s, isBlank) }
 
 // isBlank reports whether r is the blank, byte 32: other white space is no blank.
 func isBlank(r rune) bool { return r == ' ' }
+
+func isWithin(n, low, high int64) bool { return low <= n && n <= high }
