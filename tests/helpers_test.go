@@ -51,7 +51,29 @@ func isPure(t *testing.T, name string, call func() []any, unchanged ...func() bo
 	}
 }
 
-// overwrite puts zero values into a slice and into its unused capacity.
+// watchedTable is watched for a list of rows, of which each has unused capacity too.
+func watchedTable(rows [][]int64) ([][]int64, func() bool) {
+	var full, before [][]int64
+	for _, row := range rows {
+		full = append(full, append(slices.Clone(row), 1, 1, 1))
+		before = append(before, append(slices.Clone(row), 1, 1, 1))
+	}
+	table := make([][]int64, len(rows), len(rows)+1)
+	for i, row := range rows {
+		table[i] = full[i][:len(row)]
+	}
+	spare := table[:len(rows)+1]
+	return table, func() bool {
+		for i, row := range rows {
+			if len(table[i]) != len(row) || len(row) > 0 && &table[i][0] != &full[i][0] {
+				return false
+			}
+		}
+		return spare[len(rows)] == nil && reflect.DeepEqual(full, before)
+	}
+}
+
+// overwrite puts zero values into a slice, into its unused capacity, and into the slices in it.
 func overwrite(result any) {
 	v := reflect.ValueOf(result)
 	if v.Kind() != reflect.Slice {
@@ -59,6 +81,7 @@ func overwrite(result any) {
 	}
 	v = v.Slice(0, v.Cap())
 	for i := range v.Len() {
+		overwrite(v.Index(i).Interface())
 		v.Index(i).SetZero()
 	}
 }
