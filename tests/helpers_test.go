@@ -51,14 +51,14 @@ func isPure(t *testing.T, name string, call func() []any, unchanged ...func() bo
 	}
 }
 
-// watchedTable is watched for a list of rows, of which each has unused capacity too.
-func watchedTable(rows [][]int64) ([][]int64, func() bool) {
-	var full, before [][]int64
+// watchedTable is watched for a list of rows, of which each has unused capacity too, which is filled.
+func watchedTable[T comparable](rows [][]T, fill T) ([][]T, func() bool) {
+	var full, before [][]T
 	for _, row := range rows {
-		full = append(full, append(slices.Clone(row), 1, 1, 1))
-		before = append(before, append(slices.Clone(row), 1, 1, 1))
+		full = append(full, append(slices.Clone(row), fill, fill, fill))
+		before = append(before, append(slices.Clone(row), fill, fill, fill))
 	}
-	table := make([][]int64, len(rows), len(rows)+1)
+	table := make([][]T, len(rows), len(rows)+1)
 	for i, row := range rows {
 		table[i] = full[i][:len(row)]
 	}

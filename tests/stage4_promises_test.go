@@ -276,7 +276,7 @@ func TestArrangementsArePure(t *testing.T) {
 // tableCallsArePure checks the functions that take a table of pairs and no arrangement.
 func tableCallsArePure(t *testing.T, b impl.Basket, p [][]int64) {
 	t.Helper()
-	pairs, same := watchedTable(p)
+	pairs, same := watchedTable(p, 1)
 	isPure(t, "ValidPairs", func() []any { return all(impl.ValidPairs(pairs)) }, same)
 	isCoded(t, "BestArrange", func() []any {
 		places, cost, code := impl.BestArrange(b, pairs)
@@ -288,7 +288,7 @@ func tableCallsArePure(t *testing.T, b impl.Basket, p [][]int64) {
 // arrangeCallsArePure checks the functions that take a table of pairs and an arrangement.
 func arrangeCallsArePure(t *testing.T, b impl.Basket, p [][]int64, l []int64) {
 	t.Helper()
-	pairs, samePairs := watchedTable(p)
+	pairs, samePairs := watchedTable(p, 1)
 	places, samePlaces := watched(l)
 	isCoded(t, "ArrangeCost", func() []any { cost, code := impl.ArrangeCost(b, pairs, places); return all(cost, code) }, samePairs, samePlaces)
 	isCoded(t, "BestSwap", func() []any {
