@@ -90,3 +90,15 @@ func SplitWords(s string) []string { return strings.FieldsFunc(s, isBlank) }
 func isBlank(r rune) bool { return r == ' ' }
 
 func isWithin(n, low, high int64) bool { return low <= n && n <= high }
+
+// areIncreasing reports whether numbers are strictly increasing, and all from low to high.
+func areIncreasing(numbers []int64, low, high int64) bool {
+	least := low // what the next number may be
+	for _, n := range numbers {
+		if !isWithin(n, least, high) {
+			return false
+		}
+		least = n + 1
+	}
+	return true
+}
